@@ -24,7 +24,7 @@ func wantDecode(t *testing.T, s string, want api.Record) {
 	}
 }
 
-// wantRead compares Decode with the definition.
+// wantRead compares Decode with the definition, and what P10.7 says of its record.
 func wantRead(t *testing.T, s string) {
 	t.Helper()
 	got, err := Decode(s)
@@ -34,6 +34,12 @@ func wantRead(t *testing.T, s string) {
 	}
 	if !equal(got, want) || (err == api.OK) != ok || !ok && err != api.ErrForm {
 		t.Errorf("Decode of %q is %s, error %d, not %s", short(s), shown(got), int(err), shown(want))
+	}
+	if err != api.OK {
+		return
+	}
+	if again, err := Encode(got); again != s || err != api.OK {
+		t.Errorf("Encode of what Decode returns is %q, error %d, not %q", short(again), int(err), short(s))
 	}
 }
 
